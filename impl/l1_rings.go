@@ -186,6 +186,15 @@ func numberedRing(n int, number int) ring {
 	return r
 }
 
+// allRings returns all rings of n points, in the order of lists.
+func allRings(n int) []ring {
+	rings := make([]ring, factorial(n-1))
+	for number := range rings {
+		rings[number] = numberedRing(n, number)
+	}
+	return rings
+}
+
 // emptyRing returns a ring without points, to be filled.
 func emptyRing() ring {
 	var r ring

@@ -31,15 +31,25 @@ func allTellings(n int) [][]int {
 	return lists
 }
 
-// allRings returns, in the order of lists, all rings of n points.
-func allRings(n int) [][]int {
-	rings := [][]int{}
-	for _, list := range allTellings(n) {
-		if list[0] == 0 {
-			rings = append(rings, list)
+// knownRings has, at each number of points, all rings of so many; they are listed once, as most tests go over them.
+var knownRings = listRings()
+
+// listRings returns, at each number of points, all rings of so many, in the order of lists.
+func listRings() [][][]int {
+	rings := make([][][]int, 8)
+	for _, n := range sizes {
+		for _, list := range allTellings(n) {
+			if list[0] == 0 {
+				rings[n] = append(rings[n], list)
+			}
 		}
 	}
 	return rings
+}
+
+// allRings returns, in the order of lists, all rings of n points.
+func allRings(n int) [][]int {
+	return slices.Clone(knownRings[n])
 }
 
 // everyRing runs a check for all rings of all sizes.
@@ -113,6 +123,44 @@ func wantNoNumber(t *testing.T, got int, ok bool, what string, args ...any) {
 	}
 }
 
+// sameLists reports whether two lists of lists have the same lists in the same order.
+func sameLists(x [][]int, y [][]int) bool {
+	return slices.EqualFunc(x, y, slices.Equal)
+}
+
+// cloneLists returns a copy of a list of lists that shares no memory with it.
+func cloneLists(lists [][]int) [][]int {
+	copies := make([][]int, len(lists))
+	for i, list := range lists {
+		copies[i] = slices.Clone(list)
+	}
+	return copies
+}
+
+// wantLists fails the test if a list of lists is not as it must be.
+func wantLists(t *testing.T, got [][]int, ok bool, want [][]int, what string, args ...any) {
+	t.Helper()
+	if !ok || !sameLists(got, want) {
+		t.Fatalf("%s of %v returned %v, %v; want %v, true", what, args, got, ok, want)
+	}
+}
+
+// wantNoLists fails the test if a call did not return an empty list of lists and false.
+func wantNoLists(t *testing.T, got [][]int, ok bool, what string, args ...any) {
+	t.Helper()
+	if ok || len(got) != 0 {
+		t.Fatalf("%s of %v returned %v, %v; want an empty list and false", what, args, got, ok)
+	}
+}
+
+// wantBool fails the test if a bool is not as it must be.
+func wantBool(t *testing.T, got bool, want bool, what string, args ...any) {
+	t.Helper()
+	if got != want {
+		t.Fatalf("%s of %v returned %v", what, args, got)
+	}
+}
+
 // spare is what guarded puts behind the end of a list, within its capacity.
 const spare = 77
 
@@ -128,6 +176,41 @@ func wantKept(t *testing.T, list []int, was []int, what string) {
 	room := list[:len(was)+3]
 	if !slices.Equal(room[:len(was)], was) || !slices.Equal(room[len(was):], []int{spare, spare, spare}) {
 		t.Fatalf("%s changed its argument %v to %v", what, was, room)
+	}
+}
+
+// guardedLists returns a copy of a list of lists with room behind the end of each list, and behind its own.
+func guardedLists(lists [][]int) [][]int {
+	room := make([][]int, 0, len(lists)+3)
+	for _, list := range lists {
+		room = append(room, guarded(list))
+	}
+	return append(room, []int{spare}, []int{spare}, []int{spare})[:len(lists)]
+}
+
+// wantListsKept fails the test if guarded lists, or the room behind them, are not as they were made.
+func wantListsKept(t *testing.T, lists [][]int, were [][]int, what string) {
+	t.Helper()
+	room := lists[:len(were)+3]
+	for i, list := range room {
+		if i >= len(were) {
+			if !slices.Equal(list, []int{spare}) {
+				t.Fatalf("%s wrote %v behind the end of its argument %v", what, list, were)
+			}
+		} else if len(list) != len(were[i]) {
+			t.Fatalf("%s changed %v in its argument to %v", what, were[i], list)
+		} else {
+			wantKept(t, list, were[i], what)
+		}
+	}
+}
+
+// scribbleLists overwrites a list of lists, with all of its capacity.
+func scribbleLists(lists [][]int) {
+	room := lists[:cap(lists)]
+	for i, list := range room {
+		scribble(list)
+		room[i] = nil
 	}
 }
 
