@@ -144,18 +144,23 @@ func factorial(n int) int {
 	return product
 }
 
+// pointsIn reports whether a list has none but points of n, and none of them twice.
+func pointsIn(n int, list []int) bool {
+	for i, x := range list {
+		if x < 0 || x >= n || slices.Contains(list[:i], x) {
+			return false
+		}
+	}
+	return true
+}
+
 // readTelling reads a list of all points, each one once, that begins with any one.
 func readTelling(list []int) (ring, bool) {
 	r := emptyRing()
-	if !sizeIn(len(list)) {
+	if !sizeIn(len(list)) || !pointsIn(len(list), list) {
 		return r, false
 	}
-	for i, x := range list {
-		if x < 0 || x >= len(list) || slices.Contains(list[:i], x) {
-			return emptyRing(), false
-		}
-		r[i] = x
-	}
+	copy(r[:], list)
 	return r, true
 }
 
