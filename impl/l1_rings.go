@@ -173,6 +173,13 @@ func readRing(list []int) (ring, bool) {
 	return emptyRing(), false
 }
 
+// readTwo reads two rings of as many points.
+func readTwo(a []int, b []int) (ring, ring, bool) {
+	r, isFirst := readRing(a)
+	s, isSecond := readRing(b)
+	return r, s, isFirst && isSecond && len(a) == len(b)
+}
+
 // numberedRing returns the ring of n points with a number, for a number that there is.
 func numberedRing(n int, number int) ring {
 	r := emptyRing()
