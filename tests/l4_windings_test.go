@@ -72,8 +72,8 @@ func everyTwoRings(check func(a, b []int)) {
 	}
 }
 
-// everyNoTwoRings runs a check for two lists of which one or both are no ring, or that are rings of unlike many points.
-func everyNoTwoRings(check func(a, b []int)) {
+// everyNotBothRings runs a check for two lists of which one or both are no ring.
+func everyNotBothRings(check func(a, b []int)) {
 	for _, no := range noRings() {
 		check(no, no)
 		for _, n := range sizes {
@@ -83,6 +83,11 @@ func everyNoTwoRings(check func(a, b []int)) {
 			}
 		}
 	}
+}
+
+// everyNoTwoRings runs a check for two lists of which one or both are no ring, or that are rings of unlike many points.
+func everyNoTwoRings(check func(a, b []int)) {
+	everyNotBothRings(check)
 	for _, n := range sizes {
 		for _, m := range sizes {
 			if m != n {
